@@ -105,3 +105,17 @@ func withSpare(list []int64) []int64 {
 func isUntouched(list []int64, want []int64) bool {
 	return slices.Equal(list[:len(list)+3], append(slices.Clone(want), -77, -78, -79))
 }
+
+// checkNewMemory writes into the list that a call returns: the same call must return it again as
+// it was. The list must not be empty.
+func checkNewMemory(t *testing.T, name string, call func() []int64) {
+	t.Helper()
+	first := call()
+	want := slices.Clone(first)
+	for i := range first {
+		first[i] = -5
+	}
+	if second := call(); len(want) == 0 || !slices.Equal(second, want) {
+		t.Errorf("%s: %v, and then %v", name, want, second)
+	}
+}

@@ -163,14 +163,7 @@ func TestResultsAreNewMemory(t *testing.T) {
 		"ParseCode":      func() []int64 { x, _ := impl.ParseCode(s, "001,101"); return x },
 	}
 	for name, call := range calls {
-		first := call()
-		want := slices.Clone(first)
-		for i := range first {
-			first[i] = -5
-		}
-		if second := call(); len(want) == 0 || !slices.Equal(second, want) {
-			t.Errorf("%s: %v, and then %v", name, want, second)
-		}
+		checkNewMemory(t, name, call)
 		if !slices.Equal(s.Sizes, []int64{3, 2, 4}) || !slices.Equal(code, []int64{1, 5, 9, 22}) {
 			t.Errorf("%s gives out its arguments", name)
 		}

@@ -1,0 +1,37 @@
+package impl
+
+import "testing"
+
+// A loop over balls may be left at any of them: no more may be handed out then.
+func TestBallsLeftEarly(t *testing.T) {
+	s := Space{Sizes: []int64{2, 3}}
+	for stop := range allWords(s) {
+		count := 0
+		for ball := range balls(s, allWords(s), 1) {
+			count++
+			if !ball.has(int64(count-1)) || ball.countBeyond(wordSet{}) != 4 {
+				t.Errorf("ball %d: %v", count-1, ball)
+			}
+			if count == stop+1 {
+				break
+			}
+		}
+		if count != stop+1 {
+			t.Errorf("%d balls instead of %d", count, stop+1)
+		}
+	}
+}
+
+// Sets that are put together are values: none of the old ones changes.
+func TestSetsAreValues(t *testing.T) {
+	x, y := wordSet{}, wordSet{}
+	x.put(0)
+	y.put(MaxWords - 1)
+	both := x.with(y)
+	if both == x || both == y || x == y || x.has(MaxWords-1) || !both.has(0) || !both.has(MaxWords-1) {
+		t.Errorf("%v and %v make %v", x, y, both)
+	}
+	if both.countBeyond(x) != 1 || x.countBeyond(both) != 0 || both.countBeyond(wordSet{}) != 2 {
+		t.Errorf("words of %v are counted wrongly", both)
+	}
+}
