@@ -34,4 +34,7 @@ func TestSetsAreValues(t *testing.T) {
 	if both.countBeyond(x) != 1 || x.countBeyond(both) != 0 || both.countBeyond(wordSet{}) != 2 {
 		t.Errorf("words of %v are counted wrongly", both)
 	}
+	if !both.meets(x) || !both.meets(y) || x.meets(y) || y.meets(x) || both.meets(wordSet{}) || (wordSet{}).meets(wordSet{}) {
+		t.Errorf("%v and %v meet wrongly", x, y)
+	}
 }

@@ -9,13 +9,18 @@ import (
 
 // soughtSpaces are all spaces of up to MaxSought words, with their places in all orders.
 func soughtSpaces(t *testing.T) []impl.Space {
+	return spacesUpTo(t, impl.MaxSought)
+}
+
+// spacesUpTo are all spaces of up to so many words, with their places in all orders.
+func spacesUpTo(t *testing.T, words int64) []impl.Space {
 	spaces := []impl.Space{}
 	lists := [][]int64{{}}
 	for len(lists) > 0 {
 		longer := [][]int64{}
 		for _, sizes := range lists {
 			for q := int64(2); q <= 4; q++ {
-				if productOf(sizes)*q <= impl.MaxSought {
+				if productOf(sizes)*q <= words {
 					longer = append(longer, append(slices.Clone(sizes), q))
 				}
 			}
