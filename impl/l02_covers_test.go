@@ -1,6 +1,9 @@
 package impl
 
-import "testing"
+import (
+	"slices"
+	"testing"
+)
 
 // A loop over balls may be left at any of them: no more may be handed out then.
 func TestBallsLeftEarly(t *testing.T) {
@@ -36,5 +39,30 @@ func TestSetsAreValues(t *testing.T) {
 	}
 	if !both.meets(x) || !both.meets(y) || x.meets(y) || y.meets(x) || both.meets(wordSet{}) || (wordSet{}).meets(wordSet{}) {
 		t.Errorf("%v and %v meet wrongly", x, y)
+	}
+}
+
+// Greedy rounds may be left after any of them: no more may be handed out then.
+func TestGreedyRoundsLeftEarly(t *testing.T) {
+	sets := []wordSet{setOf([]int64{0, 1}), setOf([]int64{1, 2, 3}), setOf([]int64{4, 900}), setOf([]int64{0, 5, 6})}
+	whole := together(slices.Values(sets))
+	all := slices.Collect(greedyRounds(sets, whole))
+	if !slices.Equal(all, []int64{1, 3, 2}) {
+		t.Errorf("rounds %v", all)
+	}
+	for stop := range all {
+		rounds := []int64{}
+		for k := range greedyRounds(sets, whole) {
+			rounds = append(rounds, k)
+			if len(rounds) == stop+1 {
+				break
+			}
+		}
+		if !slices.Equal(rounds, all[:stop+1]) {
+			t.Errorf("left after %d rounds: %v", stop+1, rounds)
+		}
+	}
+	if none := slices.Collect(greedyRounds(nil, wordSet{})); len(none) != 0 {
+		t.Errorf("rounds without sets: %v", none)
 	}
 }

@@ -1,10 +1,6 @@
 package impl
 
-import (
-	"runtime"
-	"testing"
-	"time"
-)
+import "testing"
 
 // The channel of the bets is closed behind the last one.
 func TestBetsComeOverAClosedChannel(t *testing.T) {
@@ -32,21 +28,12 @@ func callPools(s Space, t Slip, code []int64) {
 // No goroutine stays behind a call, whether it has a result or an error.
 func TestBetsLeaveNoGoroutine(t *testing.T) {
 	s := Space{Sizes: []int64{4, 4, 4, 4, 4}}
-	before := runtime.NumGoroutine()
-	for range 20 {
+	checkNoGoroutineStays(t, func() {
 		callPools(s, Slip{15, 15, 2, 3, 15}, []int64{0, 5, 1023})
 		callPools(s, Slip{15, 15, 15, 15, 15}, []int64{7})
 		callPools(s, Slip{15, 15, 15, 15, 16}, []int64{7, 8})
 		callPools(s, Slip{1, 1, 1, 1, 1}, nil)
-	}
-	// One that has closed its channel may take a moment to end.
-	for range 200 {
-		if runtime.NumGoroutine() <= before {
-			return
-		}
-		time.Sleep(10 * time.Millisecond)
-	}
-	t.Errorf("%d goroutines instead of %d", runtime.NumGoroutine(), before)
+	})
 }
 
 // Each way of counting is at its index, and both count all matches together.
