@@ -66,3 +66,17 @@ func TestGreedyRoundsLeftEarly(t *testing.T) {
 		t.Errorf("rounds without sets: %v", none)
 	}
 }
+
+// As many sets as may be taken are no error, and one more is.
+func TestGreedyRoundsUpToALimit(t *testing.T) {
+	sets := []wordSet{setOf([]int64{0, 1}), setOf([]int64{1, 2, 3}), setOf([]int64{4, 900}), setOf([]int64{0, 5, 6})}
+	for most := range 6 {
+		indices, err := greedyUpTo(sets, most)
+		if most < 3 && (len(indices) > 0 || err != ErrLimit) || most >= 3 && (!slices.Equal(indices, []int64{1, 3, 2}) || err != ErrNone) {
+			t.Errorf("at most %d sets: %v, %d", most, indices, err)
+		}
+	}
+	if none, err := greedyUpTo(nil, 0); len(none) != 0 || err != ErrNone {
+		t.Errorf("no sets: %v, %d", none, err)
+	}
+}

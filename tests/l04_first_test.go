@@ -16,7 +16,7 @@ func soughtSpaces(t *testing.T) []impl.Space {
 func spacesUpTo(t *testing.T, words int64) []impl.Space {
 	spaces := []impl.Space{}
 	lists := [][]int64{{}}
-	for len(lists) > 0 {
+	for range impl.MaxPlaces {
 		longer := [][]int64{}
 		for _, sizes := range lists {
 			for q := int64(2); q <= 4; q++ {
